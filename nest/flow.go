@@ -1,6 +1,9 @@
 package nest
 
-import "nochez/api"
+import (
+	"nochez/api"
+	"nochez/lists"
+)
 
 // The nodes of a network: one for the nest of each pad, one for each pad, the source of all young, and the sink to which all pads lead.
 const (
@@ -43,7 +46,7 @@ func (n network) send() int {
 			if left == 0 || seen[next] {
 				continue
 			}
-			if sent := search(next, least(young, left)); sent > 0 {
+			if sent := search(next, lists.Least(young, left)); sent > 0 {
 				n[arc{node, next}] -= sent
 				n[arc{next, node}] += sent
 				return sent
@@ -75,7 +78,7 @@ func (s *site) goodSpread(l laid) ([][]int, bool) {
 		if lows[pad] > p.Room {
 			return nil, false
 		}
-		need := most(p.Need-lows[pad], 0)
+		need := lists.Most(p.Need-lows[pad], 0)
 		needs += need
 		n[arc{firstPad + pad, sink}] = need
 	}
@@ -83,7 +86,7 @@ func (s *site) goodSpread(l laid) ([][]int, bool) {
 		return nil, false
 	}
 	for pad, p := range s.Pads {
-		n[arc{firstPad + pad, sink}] = p.Room - most(p.Need, lows[pad])
+		n[arc{firstPad + pad, sink}] = p.Room - lists.Most(p.Need, lows[pad])
 	}
 	if n.fill() != supply-needs {
 		return nil, false

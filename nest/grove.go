@@ -4,6 +4,7 @@ import (
 	"iter"
 
 	"nochez/api"
+	"nochez/lists"
 )
 
 // check returns the error of a grove, or OK.
@@ -13,7 +14,7 @@ func (g Grove) check() api.Errno {
 		return api.ErrLimit
 	case len(g.Pads) == 0, len(g.Kinds) == 0:
 		return api.ErrArg
-	case !each(g.Pads, Pad.valid), !each(g.Joins, g.joins), !each(g.Kinds, Kind.valid):
+	case !lists.Each(g.Pads, Pad.valid), !lists.Each(g.Joins, g.joins), !lists.Each(g.Kinds, Kind.valid):
 		return api.ErrArg
 	}
 	return api.OK

@@ -5,6 +5,7 @@ import (
 	"slices"
 
 	"nochez/api"
+	"nochez/lists"
 )
 
 // None is written in a layout for a pad without a nest.
@@ -166,5 +167,5 @@ func ProveSpread(g Grove, layout []int, spread [][]int) bool {
 // ProveApart reports whether the grove is valid, the list increases, and its pads are apart.
 func ProveApart(g Grove, pads []int) bool {
 	s, e := open(g)
-	return e == api.OK && each(pads, s.has) && rises(pads) && s.apart(pads)
+	return e == api.OK && lists.Each(pads, s.has) && lists.Rises(pads) && s.apart(pads)
 }

@@ -1,6 +1,9 @@
 package nest
 
-import "nochez/api"
+import (
+	"nochez/api"
+	"nochez/lists"
+)
 
 // row has a range for each pad.
 type row [api.MaxNestPads]Range
@@ -27,9 +30,9 @@ type end struct {
 	within    func(int, ...int) int // of several limits, the one that counts at this end
 }
 
-func lowEnd() end { return end{near: Range.low, far: Range.high, within: most} }
+func lowEnd() end { return end{near: Range.low, far: Range.high, within: lists.Most} }
 
-func highEnd() end { return end{near: Range.high, far: Range.low, within: least} }
+func highEnd() end { return end{near: Range.high, far: Range.low, within: lists.Least} }
 
 // sum adds up one end of all shares.
 func (n nest) sum(of func(Range) int) int {
@@ -55,7 +58,7 @@ func (n nest) spreadWith(pad, number int) [api.MaxNestPads]int {
 	var numbers [api.MaxNestPads]int
 	left := n.young - n.sum(Range.low)
 	for p, r := range n.shares {
-		more := least(left, r.Hi-r.Lo)
+		more := lists.Least(left, r.Hi-r.Lo)
 		numbers[p] = r.Lo + more
 		left -= more
 	}
