@@ -62,6 +62,21 @@ func Choices(indexes, size int) iter.Seq[[]int] {
 	}
 }
 
+// Smallest returns the shortest list of rising indexes below a number for which a condition holds, the lexicographically first one of several; nil if it holds for none.
+func Smallest(indexes int, holds func([]int) bool) []int {
+	var set []int
+search:
+	for size := range indexes + 1 {
+		for list := range Choices(indexes, size) {
+			if holds(list) {
+				set = list
+				break search
+			}
+		}
+	}
+	return set
+}
+
 // Without returns the elements of a list whose indexes are not left out.
 func Without[T any](list []T, out []int) []T {
 	var kept []T

@@ -79,6 +79,39 @@ func TestChoicesUpTo(t *testing.T) {
 	}
 }
 
+func TestSmallest(t *testing.T) {
+	for _, x := range []struct {
+		indexes int
+		holds   func([]int) bool
+		want    []int
+	}{
+		{3, func(l []int) bool { return true }, nil},
+		{0, func(l []int) bool { return true }, nil},
+		{3, func(l []int) bool { return false }, nil},
+		{3, func(l []int) bool { return len(l) > 0 }, []int{0}},
+		{3, func(l []int) bool { return slices.Contains(l, 2) }, []int{2}},
+		{4, func(l []int) bool { return len(l) == 2 && l[0] > 0 }, []int{1, 2}},
+		{4, func(l []int) bool { return slices.Equal(l, []int{0, 1, 2}) || slices.Equal(l, []int{1, 3}) }, []int{1, 3}},
+		{4, func(l []int) bool { return len(l) == 4 }, []int{0, 1, 2, 3}},
+	} {
+		if set := lists.Smallest(x.indexes, x.holds); !slices.Equal(set, x.want) {
+			t.Errorf("Smallest below %d: %v, not %v", x.indexes, set, x.want)
+		}
+	}
+}
+
+// What holds is not asked again, and nothing after it.
+func TestSmallestStops(t *testing.T) {
+	var asked [][]int
+	lists.Smallest(3, func(l []int) bool {
+		asked = append(asked, l)
+		return len(l) > 0 && l[0] == 1
+	})
+	if !slices.EqualFunc(asked, [][]int{nil, {0}, {1}}, slices.Equal) {
+		t.Errorf("asked for %v", asked)
+	}
+}
+
 func TestWithout(t *testing.T) {
 	list := []string{"a", "b", "c"}
 	for _, x := range []struct {
